@@ -11,7 +11,7 @@ import (
 func (d *doing) command(cmd int, k api.Key, n int) {
 	for _, r := range table() {
 		if r.cmd == cmd {
-			d.row(r, about{line: d.text.Line(), mark: d.text.Mark(), key: k, n: n})
+			d.row(r, about{text: d.text, key: k, n: n})
 			return
 		}
 	}

@@ -2,14 +2,14 @@ package core
 
 import (
 	"dactyl/api"
+	"dactyl/edit"
 	"dactyl/utf"
 	"dactyl/word"
 )
 
-// about is what a command is done with: the line, the mark, the key, and the count.
+// about is what a command is done with: the text, the key, and the count.
 type about struct {
-	line api.Line
-	mark int
+	text *edit.Edit
 	key  api.Key
 	n    int
 }
@@ -25,22 +25,22 @@ func table() []row {
 	return []row{
 		{api.QSelf, self},
 		{api.QPaste, paste},
-		{api.QLeft, moves(func(a about) int { return a.line.At - a.n })},
-		{api.QRight, moves(func(a about) int { return a.line.At + a.n })},
-		{api.QWordLeft, moves(about.wordLeft)},
-		{api.QWordRight, moves(about.wordRight)},
+		{api.QLeft, moves(func(x api.Line, n int) int { return x.At - n })},
+		{api.QRight, moves(func(x api.Line, n int) int { return x.At + n })},
+		{api.QWordLeft, moves(wordLeft)},
+		{api.QWordRight, moves(wordRight)},
 		{api.QHome, to(api.EMove, home)},
 		{api.QEnd, to(api.EMove, end)},
 		{api.QDelete, to(api.EDelete, func(a about) int { return a.n })},
 		{api.QBack, to(api.EDelete, func(a about) int { return -a.n })},
 		{api.QKillEnd, to(api.EKill, end)},
 		{api.QKillHome, to(api.EKill, home)},
-		{api.QKillWord, to(api.EKill, about.wordRight)},
-		{api.QKillBack, to(api.EKill, about.wordLeft)},
+		{api.QKillWord, to(api.EKill, toWord(wordRight))},
+		{api.QKillBack, to(api.EKill, toWord(wordLeft))},
 		{api.QKillAll, killAll},
-		{api.QUpper, to(api.EUpper, about.wordRight)},
-		{api.QLower, to(api.ELower, about.wordRight)},
-		{api.QCap, to(api.ECap, about.wordRight)},
+		{api.QUpper, to(api.EUpper, toWord(wordRight))},
+		{api.QLower, to(api.ELower, toWord(wordRight))},
+		{api.QCap, to(api.ECap, toWord(wordRight))},
 		{api.QYank, to(api.EYank, home)},
 		{api.QPop, to(api.EPop, home)},
 		{api.QSwap, to(api.ESwap, home)},
@@ -60,10 +60,11 @@ func to(kind int, n func(a about) int) func(a about) ([]api.Op, bool) {
 }
 
 // moves makes a function that tells a move to a place; it is refused where the cursor is there.
-func moves(place func(a about) int) func(a about) ([]api.Op, bool) {
+func moves(place func(x api.Line, n int) int) func(a about) ([]api.Op, bool) {
 	return func(a about) ([]api.Op, bool) {
-		at := min(max(place(a), 0), len(a.line.S))
-		return []api.Op{{Kind: api.EMove, N: at}}, at != a.line.At
+		x := a.text.Line()
+		at := min(max(place(x, a.n), 0), len(x.S))
+		return []api.Op{{Kind: api.EMove, N: at}}, at != x.At
 	}
 }
 
@@ -72,29 +73,34 @@ func home(about) int {
 }
 
 func end(a about) int {
-	return len(a.line.S)
+	return len(a.text.Line().S)
 }
 
 func (a about) marked() int {
-	return a.mark
+	return a.text.Mark()
 }
 
-func (a about) wordLeft() int {
-	return a.words(-a.n)
+// toWord makes a function that tells a place among words.
+func toWord(place func(x api.Line, n int) int) func(a about) int {
+	return func(a about) int { return place(a.text.Line(), a.n) }
 }
 
-func (a about) wordRight() int {
-	return a.words(a.n)
+func wordLeft(x api.Line, n int) int {
+	return words(x, -n)
+}
+
+func wordRight(x api.Line, n int) int {
+	return words(x, n)
 }
 
 // words tells the place that is so many words to the right, or, below 0, to the left.
-func (a about) words(n int) int {
-	at, step := a.line.At, word.Next
+func words(x api.Line, n int) int {
+	at, step := x.At, word.Next
 	if n < 0 {
 		n, step = -n, word.Back
 	}
 	for range n {
-		next := step(a.line.S, at)
+		next := step(x.S, at)
 		if next == at {
 			break
 		}

@@ -12,10 +12,9 @@ const (
 	capital = 2
 )
 
-// change is what a line becomes (false: it is refused), and whether that is joined to the step ahead.
+// change is what a line becomes (false: it is refused).
 type change struct {
-	to   func(x api.Line) (api.Line, bool)
-	join bool
+	to func(x api.Line) (api.Line, bool)
 }
 
 // always is a change to one line, whatever was.
@@ -28,15 +27,9 @@ func within(x api.Line, at int) int {
 	return min(max(at, 0), len(x.S))
 }
 
-// change tells what is done with the line alone; false: there is no such kind.
-func (t *Edit) change(o api.Op) (change, bool) {
+// changeOf tells what is done by letters, and words, and with whole lines; false: nothing, the kind is another one.
+func changeOf(o api.Op) (change, bool) {
 	switch o.Kind {
-	case api.EInsert:
-		return change{to: inserter(o.S), join: len(o.S) == 1 && t.last.one}, true
-	case api.EMove:
-		return change{to: mover(o.N)}, true
-	case api.EDelete:
-		return change{to: deleter(o.N)}, true
 	case api.ESwap:
 		return change{to: line.Swap}, true
 	case api.ESwapWords:
@@ -57,26 +50,7 @@ func (t *Edit) change(o api.Op) (change, bool) {
 	return change{}, false
 }
 
-func inserter(l []api.Sign) func(x api.Line) (api.Line, bool) {
-	return func(x api.Line) (api.Line, bool) { return line.Insert(x, l), len(l) > 0 }
-}
-
-func mover(to int) func(x api.Line) (api.Line, bool) {
-	return func(x api.Line) (api.Line, bool) {
-		x.At = within(x, to)
-		return x, true
-	}
-}
-
-func deleter(n int) func(x api.Line) (api.Line, bool) {
-	return func(x api.Line) (api.Line, bool) {
-		// The number is bounded ahead of the sum, which would leave an int's range.
-		to := x.At + min(max(n, -x.At), len(x.S)-x.At)
-		left, gone := line.Cut(x, x.At, to)
-		return left, len(gone) > 0
-	}
-}
-
+// caser makes a change of letters up to a place.
 func caser(to, how int) func(x api.Line) (api.Line, bool) {
 	return func(x api.Line) (api.Line, bool) {
 		return line.Case(x, to, how), within(x, to) != x.At
