@@ -49,8 +49,8 @@ func table() []row {
 		{api.QRedo, to(api.ERedo, home)},
 		{api.QMark, to(api.EMark, home)},
 		{api.QExchange, to(api.EExchange, home)},
-		{api.QCopy, to(api.ECopy, about.marked)},
-		{api.QKillMark, to(api.EKill, about.marked)},
+		{api.QCopy, to(api.ECopy, marked)},
+		{api.QKillMark, to(api.EKill, marked)},
 	}
 }
 
@@ -76,7 +76,7 @@ func end(a about) int {
 	return len(a.text.Line().S)
 }
 
-func (a about) marked() int {
+func marked(a about) int {
 	return a.text.Mark()
 }
 
