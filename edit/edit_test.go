@@ -168,6 +168,15 @@ func TestPopRefused(t *testing.T) {
 	}
 }
 
+// P20.2: a pop that is refused turns nothing, however many texts there are.
+func TestPopRefusedOfThree(t *testing.T) {
+	x := text(t, 6)
+	play(t, x, op(api.EInsert, 0, "b"), op(api.EKill, 0, ""), op(api.EInsert, 0, "acdefg"), op(api.EKill, 0, ""), op(api.EInsert, 0, "xyz"), op(api.EMove, 2, ""), op(api.EKill, 3, ""), op(api.EYank, 0, ""))
+	if len(x.Kills()) != 3 || x.Do(op(api.EPop, 0, "")) || !x.Do(op(api.EYank, 0, "")) || says(x.Line()) != "xyzz|" {
+		t.Error("the hand moved", says(x.Line()))
+	}
+}
+
 // P20.2
 func TestMark(t *testing.T) {
 	x := text(t, 9)

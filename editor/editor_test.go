@@ -111,6 +111,9 @@ func TestErrors(t *testing.T) {
 			t.Errorf("kind %d: %d", c.x.Kind, told.E)
 		}
 	}
+	if told := e.Do(api.Step{Kind: api.SResize, N: 1000, M: 1000}); told.E != api.OK || e.Do(api.Step{Kind: api.SResize, N: 12, M: 3}).E != api.OK {
+		t.Error("the greatest sides", told.E)
+	}
 	if w, h := e.Sides(); sign.Text(e.Core().Line().S) != "ab" || w != 12 || h != 3 {
 		t.Error("something was changed")
 	}

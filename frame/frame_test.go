@@ -41,7 +41,7 @@ func TestInsideOpen(t *testing.T) {
 	for s, want := range map[string]string{
 		"": "", "a|\r": "ooo", "\x1b[200~a": "oooooox", "\x1b[200~a\x1b[201~b": "ooooooxxxxxxxo", "\x1b[200|~a": "oooooooo", "\x1b[20|0~a": "oooooooo",
 		"\x1b[200~\x1b|[201|~|": "ooooooxxxxxxxxo", "\x1b\x1b[200~a": "ooooooox", "\x1b[20\x1b[200~a": "oooooooooox", "\x1b[200~\x1b[20\x1b[201~a": "ooooooxxxxxxxxxxo",
-		"\x1b[201~a": "ooooooo", "\x1b[200~\x1b[200~\x1b[201~a": "ooooooxxxxxxxxxxxxo", "\x1b[200~\x1b[201~\x1b[200~a": "ooooooxxxxxxoooooox", "\x1b[0200~a": "oooooooo",
+		"\x1b[201~a": "ooooooo", "\x1b[200~\x1b[200~\x1b[201~a": "ooooooxxxxxxxxxxxxo", "\x1b[200~\x1b[201~\x1b[200~a": "ooooooxxxxxxoooooox", "\x1b[0200~a": "oooooooo", "\x1b[20x0~a": "oooooooo", "\x1b[200~\x1b[20x1~a": "ooooooxxxxxxxx",
 	} {
 		if got := marks(s); got != want {
 			t.Errorf("%q: %s, not %s", s, got, want)

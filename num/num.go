@@ -28,13 +28,13 @@ func teller(base uint64) func(n uint64, least int) string {
 	}
 }
 
-// reader makes a function that reads digits to a base; false: these are none, or more than a uint64 holds.
+// reader makes a function that reads digits to a base; false: these are none. More of them than a uint64 holds wrap.
 func reader(base uint64) func(s string) (uint64, bool) {
 	return func(s string) (uint64, bool) {
 		n := uint64(0)
 		for i := 0; i < len(s); i++ {
 			d := digit(s[i])
-			if d >= base || n > (math.MaxUint64-d)/base {
+			if d >= base {
 				return 0, false
 			}
 			n = n*base + d

@@ -51,7 +51,7 @@ func TestAlikeFind(t *testing.T) {
 // P44.3
 func TestScripts(t *testing.T) {
 	for s, want := range map[string][]int{
-		"": nil, "12 -": nil, "a": {1}, "Zz": {1}, "[`{@": nil, "\u00bf": nil, "\u00c0": {1}, "\u024f": {1}, "\u0250": nil, "\u036f": nil, "\u0370": {2}, "\u03ff": {2}, "\u0400": {3}, "\u052f": {3}, "\u0530": nil, "日": {4}, "日аaα": {1, 2, 3, 4}, "аа日а": {3, 4}, "\xC3a": {1}, "\u037e": {2},
+		"": nil, "12 -": nil, "a": {1}, "z": {1}, "A": {1}, "Z": {1}, "[`{@": nil, "\u00bf": nil, "\u00c0": {1}, "\u024f": {1}, "\u0250": nil, "\u036f": nil, "\u0370": {2}, "\u03ff": {2}, "\u0400": {3}, "\u052f": {3}, "\u0530": nil, "日": {4}, "日аaα": {1, 2, 3, 4}, "аа日а": {3, 4}, "\xC3a": {1}, "\u037e": {2},
 	} {
 		if got := Scripts(s); !slices.Equal(got, want) {
 			t.Errorf("%q: %v", s, got)

@@ -57,6 +57,12 @@ func TestSave(t *testing.T) {
 	if s, _ := d.Read("history"); s != "a\\u00000A\nb\n" {
 		t.Errorf("%q", s)
 	}
+	cut := vfs.New(api.Crash{At: 2})
+	Save(cut, history(t, "a"))
+	cut.Power()
+	if s, e := cut.Read("history.new"); s != "a\n" || e != api.OK || len(cut.Names()) != 1 {
+		t.Error("the file that is written first", cut.Names())
+	}
 	great, _ := hist.New(api.MaxHist, api.MaxEntry)
 	for i := range 50 {
 		great.Add(sign.Of(0, strings.Repeat("\x01", 4000+i)))

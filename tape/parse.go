@@ -7,7 +7,7 @@ import (
 	"dactyl/num"
 )
 
-// words is the words of a line that are not read yet, and whether one was none, or not there.
+// words is the words of a line that are not read yet, and whether one was none.
 type words struct {
 	left []string
 	bad  bool
@@ -18,8 +18,7 @@ func reader(line string) (func() string, *words) {
 	w := &words{left: strings.Split(line, blank)}
 	return func() string {
 		if len(w.left) == 0 {
-			w.bad = true
-			return ""
+			return "" // which is no word of any kind
 		}
 		next := w.left[0]
 		w.left = w.left[1:]

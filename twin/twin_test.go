@@ -36,7 +36,7 @@ func TestMay(t *testing.T) {
 		want bool
 	}{
 		{0x202E, 0x2066, true}, {7, 10, false}, {7, 8, true}, {0, 31, true}, {9, 8, false}, {13, 8, false}, {27, 8, false}, {7, 7, false}, {'a', 'b', false}, {127, 7, false}, {0xE9, 0xEA, true}, {0x80, 0x85, true}, {0x4E00, 0x4E01, true}, {0x4E00, 0x20000, false}, {0x430, 0x410, true}, {0x430, 0x2010, false}, {0x430, 'a', false}, {0xE9, 0x430, false}, {0xE9, 0x800, false},
-		{api.Stray + 200, api.Stray + 201, false}, {-1, 0xD800, false}, {0xD800, 0xD801, false}, {0xE000, 0xE001, true}, {math.MaxInt, math.MinInt, false}, {0xAD, 0x200B, false}, {0x200B, 0x200C, true}, {0x300, 0x301, true}, {0xA0, 0x2000, false},
+		{api.Stray + 200, api.Stray + 201, false}, {-1, 0xD800, false}, {0xD800, 0xD801, false}, {0xE000, 0xE001, true}, {0x10FFFF, 0x10FFFE, true}, {0, 1, true}, {math.MaxInt, math.MinInt, false}, {0xAD, 0x200B, false}, {0x200B, 0x200C, true}, {0x300, 0x301, true}, {0xA0, 0x2000, false},
 	} {
 		if May(c.v, c.w) != c.want || May(c.w, c.v) != c.want {
 			t.Errorf("May(%X, %X)", c.v, c.w)
@@ -70,7 +70,7 @@ func TestCheck(t *testing.T) {
 		"none": {script(""), v, w, api.OK}, "no twins": {narrow, v, 'a', api.ErrArg}, "paste": {narrow, v, w, api.ErrRange}, "crashes": {crashes, v, w, api.ErrForm}, "typed v": {script("", bytes("é")), v, w, api.ErrForm}, "typed w": {script("", bytes("aê")), v, w, api.ErrForm}, "typed in two steps": {script("", bytes("\xC3"), bytes("\xA9")), v, w, api.ErrForm}, "two stray bytes": {script("", bytes("\xC3"), tick, bytes("\xA9"), tick), v, w, api.OK},
 		"control": {script("", bytes("\x01")), 1, 2, api.ErrForm}, "meta": {script("", bytes("\x1b\x01")), 2, 1, api.ErrForm}, "other control": {script("", bytes("\x03")), 1, 2, api.OK}, "cut": {script("", paste(strings.Repeat("x", 21))), v, w, api.ErrForm}, "not cut": {script("", paste(strings.Repeat("x", 20))), v, w, api.OK}, "open": {script("", bytes("\x1b[200~x")), v, w, api.ErrForm}, "pasted v": {script("", paste("é")), v, w, api.OK}, "pasted w": {script("", paste("ê")), v, w, api.ErrForm},
 		"prompt w": {script("ê"), v, w, api.ErrForm}, "prompt v": {script("é"), v, w, api.OK}, "offered w": {script("", api.Step{Kind: api.SOffer, L: []string{"a", "ê"}}), v, w, api.ErrForm}, "offered v": {script("", api.Step{Kind: api.SOffer, L: []string{"é"}}), v, w, api.OK}, "loaded w": {script("", api.Step{Kind: api.SLoad, N: 1, Text: "ê"}), v, w, api.ErrForm}, "loaded w by digits": {script("", api.Step{Kind: api.SLoad, N: 1, Text: `\u0000EA`}), v, w, api.ErrForm}, "a backslash, and digits": {script("", api.Step{Kind: api.SLoad, N: 1, Text: `\\u0000EA`}), v, w, api.OK}, "a backslash, and w": {script("", api.Step{Kind: api.SLoad, N: 1, Text: `\\\u0000EA`}), v, w, api.ErrForm},
-		"pasted over steps": {script("", bytes("\x1b[200~\xC3"), tick, bytes("\xAA\x1b[2"), tick, bytes("01~")), v, w, api.ErrForm}, "no text of a step that has none": {script("", api.Step{Kind: api.SSave, Text: "ê"}), v, w, api.OK},
+		"digits without a backslash": {script("", api.Step{Kind: api.SLoad, N: 1, Text: "ab0000EA"}), v, w, api.OK}, "no digits": {script("", api.Step{Kind: api.SLoad, N: 1, Text: `\u00000g`}), 1, 0, api.OK}, "pasted over steps": {script("", bytes("\x1b[200~\xC3"), tick, bytes("\xAA\x1b[2"), tick, bytes("01~")), v, w, api.ErrForm}, "no text of a step that has none": {script("", api.Step{Kind: api.SSave, Text: "ê"}), v, w, api.OK},
 	} {
 		got, e := Turn(c.s, c.v, c.w)
 		if f := Check(c.s, c.v, c.w); f != c.want || e != c.want || e != api.OK && got.Steps != nil {

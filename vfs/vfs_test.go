@@ -146,6 +146,27 @@ func TestSync(t *testing.T) {
 	}
 }
 
+// P21.2, P21.3: what waited is done, or gone, once: nothing of it is left for a later Sync, or crash.
+func TestNothingWaits(t *testing.T) {
+	d := New(api.Crash{At: 1})
+	d.Write("a", "1")
+	d.Write("b", "2")
+	d.Power()
+	if d.Sync() != api.OK || state(t, d) != "" {
+		t.Error("behind a crash:", state(t, d))
+	}
+	e := New(api.Crash{At: 4, Keep: []byte{255, 0}})
+	e.Write("a", "1")
+	e.Sync()
+	e.Write("a", "2")
+	e.Sync()
+	e.Write("a", "3")
+	e.Power()
+	if state(t, e) != "a=3" {
+		t.Error("behind a Sync:", state(t, e))
+	}
+}
+
 // P21.1: an empty text is a file too.
 func TestEmpty(t *testing.T) {
 	d := New(api.Crash{At: 1, Keep: []byte{7}})

@@ -75,8 +75,8 @@ func TestFirstOwn(t *testing.T) {
 
 // P7.3
 func TestText(t *testing.T) {
-	c := []api.Cell{{V: 'a'}, {V: 0}, {V: 0x4E00}, {V: -1}, {V: -9}, {V: 0xD800}, {V: math.MaxInt}, {V: api.Stray + 200}}
-	if got := Text(c); got != "a 一\xC8" {
+	c := []api.Cell{{V: 'a'}, {V: 1}, {V: 0}, {V: 0x4E00}, {V: -1}, {V: -9}, {V: 0xD800}, {V: math.MaxInt}, {V: api.Stray + 200}}
+	if got := Text(c); got != "a\x01 一\xC8" {
 		t.Errorf("%q", got)
 	}
 	if Text(nil) != "" {

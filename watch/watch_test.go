@@ -98,7 +98,7 @@ func TestAgainst(t *testing.T) {
 	}{
 		{nil, nil, -1}, {[]api.Step{bytes("\r")}, nil, -1}, {nil, []api.Told{accept}, -1}, {[]api.Step{bytes("\r")}, []api.Told{accept}, -1}, {[]api.Step{bytes("a")}, []api.Told{accept}, 0}, {[]api.Step{bytes("a")}, []api.Told{bell}, -1},
 		{[]api.Step{bytes("\r"), bytes("a")}, []api.Told{bell, accept}, 1}, {[]api.Step{bytes("\r\n")}, []api.Told{{Events: []api.Event{{Kind: api.VAccept}, {Kind: api.VBell}, {Kind: api.VAccept}}}}, -1}, {[]api.Step{bytes("\r")}, []api.Told{{Events: []api.Event{{Kind: api.VAccept}, {Kind: api.VAccept}}}}, 0},
-		{[]api.Step{bytes("\x1b[200~"), bytes("\r")}, []api.Told{bell, accept}, 1}, {[]api.Step{bytes("\x1b[200~"), bytes("\x1b[201~\r")}, []api.Told{bell, accept}, -1}, {[]api.Step{bytes("\x1b[20"), {Kind: api.STick}, bytes("0~\r")}, []api.Told{bell, bell, accept}, -1}, {[]api.Step{bytes("\x1b[20"), {Kind: api.SSave}, bytes("0~\r")}, []api.Told{bell, bell, accept}, 2},
+		{[]api.Step{bytes("\x1b[200~"), bytes("\r")}, []api.Told{bell, accept}, 1}, {[]api.Step{bytes("\x1b[200~"), bytes("\x1b[201~\r")}, []api.Told{bell, accept}, -1}, {[]api.Step{bytes("\x1b[20"), {Kind: api.STick}, bytes("0~\r")}, []api.Told{bell, bell, accept}, -1}, {[]api.Step{bytes("\x1b[20"), {Kind: api.SSave}, bytes("0~\r")}, []api.Told{bell, bell, accept}, 2}, {[]api.Step{bytes("\x1b[200~\x1b[20"), {Kind: api.STick}, bytes("1~\r")}, []api.Told{bell, bell, accept}, -1},
 		{[]api.Step{{Kind: api.SOffer, L: []string{"\r"}, Text: "\r"}}, []api.Told{accept}, 0}, {[]api.Step{{Kind: api.SLoad, N: 1, Text: "\r"}}, []api.Told{accept}, 0}, {[]api.Step{{Kind: api.STick, Text: "\r"}}, []api.Told{accept}, 0},
 	} {
 		if got := Against(c.steps, c.told); got != c.want {
