@@ -3,6 +3,7 @@ package grid
 import (
 	"math"
 	"math/rand"
+	"slices"
 	"strings"
 	"testing"
 
@@ -133,10 +134,10 @@ func TestPieces(t *testing.T) {
 	}
 }
 
-// P11.2
+// P11.2, and R2: a terminal's cells have a value, looks, and nobody, and no more.
 func TestLooksBellsFrames(t *testing.T) {
 	g := terminal(t, 5, 1, number(api.OLooks, 6), text("日"), number(api.OLooks, 0), text("x"), kind(api.OBell), kind(api.OBell), number(api.OPaste, 1))
-	want := []api.Cell{{V: '日', A: 6, Own: -1, Of: '日'}, {V: -1, A: 6, Own: -1, Of: '日', K: 1}, {V: 'x', Own: -1, Of: 'x'}, {Own: -1}, {Own: -1}}
+	want := []api.Cell{{V: '日', A: 6, Own: -1}, {V: -1, A: 6, Own: -1}, {V: 'x', Own: -1}, {Own: -1}, {Own: -1}}
 	for i, c := range g.Screen().Rows[0] {
 		if c != want[i] {
 			t.Errorf("cell %d: %v", i, c)
@@ -168,27 +169,30 @@ func TestRefused(t *testing.T) {
 	}
 }
 
-// P11.2: whatever is done, a right half stands behind a wide sign, and nowhere else, and Write does what Do does.
+// P11.2, and R2: whatever is done, a right half stands behind a wide sign, and nowhere else, no cell has an Of, or a K, and Write does what Do does.
 func TestHalves(t *testing.T) {
 	r := rand.New(rand.NewSource(16))
 	for range 3000 {
 		w, h := 1+r.Intn(5), 1+r.Intn(3)
 		a, b := terminal(t, w, h), terminal(t, w, h)
 		for range 12 {
-			o := []api.Out{text("a"), text("日本"), text("x日"), move(1+r.Intn(5), 1+r.Intn(6)), kind(api.ORest), kind(api.OCR), kind(api.OLF), number(api.OLooks, r.Intn(8))}[r.Intn(8)]
+			o := []api.Out{text("a"), text("日本"), text("x日"), text("а"), move(1+r.Intn(5), 1+r.Intn(6)), kind(api.OErase), kind(api.ORest), kind(api.OCR), kind(api.OLF), number(api.OLooks, r.Intn(8))}[r.Intn(10)]
 			a.Do(o)
 			s, _ := emit.Text(o)
 			b.Write(s)
 			for _, row := range a.Screen().Rows {
 				for i, c := range row {
 					wide := c.V == '日' || c.V == '本'
-					if wide && (i+1 == w || row[i+1].V != -1 || row[i+1].A != c.A) || c.V == -1 && (i == 0 || row[i-1].V != '日' && row[i-1].V != '本') || c.Own != -1 {
+					if c.Own != -1 || c.Of != 0 || c.K != 0 {
+						t.Fatalf("%v has more than a terminal's cell", c)
+					}
+					if wide && (i+1 == w || row[i+1].V != -1 || row[i+1].A != c.A) || c.V == -1 && (i == 0 || row[i-1].V != '日' && row[i-1].V != '本') {
 						t.Fatalf("%s", picture(a.Screen()))
 					}
 				}
 			}
 		}
-		if !port.Same(a.Screen(), b.Screen()) {
+		if x, y := a.Screen(), b.Screen(); x.Row != y.Row || x.Col != y.Col || !slices.EqualFunc(x.Rows, y.Rows, slices.Equal) {
 			t.Fatal("Write is not Do")
 		}
 	}
